@@ -19,7 +19,7 @@ func made(t *testing.T, n int, pairs ...[2]int) *graph.Graph {
 	}
 	g, e := graph.New(n, l)
 	if g == nil || e != api.OK {
-		t.Fatalf("New(%d, %v) = %v, error %d", n, l, g, e)
+		t.Fatalf("New(%d, %d edges) = %v, error %d", n, len(l), g, e)
 	}
 	return g
 }
