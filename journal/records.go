@@ -2,7 +2,6 @@ package journal
 
 import (
 	"iter"
-	"slices"
 
 	"seepage/api"
 	"seepage/codec"
@@ -15,8 +14,10 @@ type checksum [4]byte
 // following returns a function that returns the checksum of the next record, from its
 // frame; the first one follows the record with a checksum.
 func following(last checksum) func(frame []byte) checksum {
+	var summed []byte
 	return func(frame []byte) checksum {
-		x := image.Sum(slices.Concat(last[:], frame))
+		summed = append(append(summed[:0], last[:]...), frame...)
+		x := image.Sum(summed)
 		last = checksum{byte(x >> 24), byte(x >> 16), byte(x >> 8), byte(x)}
 		return last
 	}
@@ -44,4 +45,13 @@ func records(b []byte) iter.Seq2[api.Cmd, int] {
 			}
 		}
 	}
+}
+
+// valid returns how many bytes the valid records of some bytes have.
+func valid(b []byte) int {
+	good := 0
+	for _, end := range records(b) {
+		good = end
+	}
+	return good
 }
