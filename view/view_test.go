@@ -280,7 +280,7 @@ func TestDraws(t *testing.T) {
 		for n := range 10 {
 			rows, e := v.Random(make([]uint64, n))
 			if n < 2 || n > draws {
-				if rows != nil || e != api.ErrDraws {
+				if len(rows) != 0 || e != api.ErrDraws {
 					t.Errorf("%d draws of at most %d: %v, error %d", n, draws, rows, e)
 				}
 			} else if len(rows) != 4 || e != api.OK {
